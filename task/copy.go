@@ -1,0 +1,77 @@
+package task
+
+import (
+	"slices"
+
+	"bowsprit/api"
+)
+
+// copied is a list of copies.
+func copied[T any](l []T, copyOf func(T) T) []T {
+	own := make([]T, len(l))
+	copy(own, l)
+	for k := range own {
+		own[k] = copyOf(own[k])
+	}
+	return own
+}
+
+func copyOfRows(rows []api.Row) []api.Row {
+	return copied(rows, slices.Clone[api.Row])
+}
+
+func copyOfBatch(b api.Batch) api.Batch {
+	b.Rows = copyOfRows(b.Rows)
+	return b
+}
+
+func copyOfHeld(h api.Held) api.Held {
+	h.Batch = copyOfBatch(h.Batch)
+	return h
+}
+
+func copyOfIn(in api.In) api.In {
+	in.Receiver.Ahead = copied(in.Receiver.Ahead, copyOfHeld)
+	in.Receiver.Buffer = copied(in.Receiver.Buffer, copyOfBatch)
+	in.Rows = copyOfRows(in.Rows)
+	return in
+}
+
+func copyOfOut(out api.Out) api.Out {
+	out.Sender.Queue = copied(out.Sender.Queue, copyOfBatch)
+	out.Rest = copyOfRows(out.Rest)
+	return out
+}
+
+func copyOfExpr(x api.Expr) api.Expr {
+	x.Nodes = slices.Clone(x.Nodes)
+	return x
+}
+
+func copyOfAgg(a api.Agg) api.Agg {
+	a.Arg = copyOfExpr(a.Arg)
+	return a
+}
+
+func copyOfNode(n api.LNode) api.LNode {
+	n.Kinds, n.Keys, n.Order = slices.Clone(n.Kinds), slices.Clone(n.Keys), slices.Clone(n.Order)
+	n.Cond = copyOfExpr(n.Cond)
+	n.Aggs = copied(n.Aggs, copyOfAgg)
+	n.Items = copied(n.Items, copyOfExpr)
+	return n
+}
+
+func copyOfFrag(f api.Frag) api.Frag {
+	f.Nodes = copied(f.Nodes, copyOfNode)
+	f.Cols = slices.Clone(f.Cols)
+	return f
+}
+
+// copyOf is a task that shares nothing with the one that it is of.
+func copyOf(t api.Task) api.Task {
+	t.Frag = copyOfFrag(t.Frag)
+	t.Ins = copied(t.Ins, copyOfIn)
+	t.Outs = copied(t.Outs, copyOfOut)
+	t.Rows = copyOfRows(t.Rows)
+	return t
+}

@@ -1,0 +1,251 @@
+package coord_test
+
+import (
+	"slices"
+	"strconv"
+	"strings"
+
+	"bowsprit/api"
+)
+
+// Values, rows, expressions, nodes, fragments, plans, catalogs and layouts are made without the program.
+var (
+	null = api.Value{}
+	no   = api.Value{Kind: api.VBool}
+	yes  = api.Value{Kind: api.VBool, N: 1}
+)
+
+// The kinds by short names.
+const (
+	kn = api.VNull
+	kb = api.VBool
+	ki = api.VInt
+	kt = api.VText
+	ks = api.VSum
+)
+
+func number(n int64) api.Value {
+	return api.Value{Kind: ki, N: n}
+}
+
+func text(s string) api.Value {
+	return api.Value{Kind: kt, S: s}
+}
+
+// under is a number as a sum under way.
+func under(n int64) api.Value {
+	return api.Value{Kind: ks, N: n >> 63, U: uint64(n)}
+}
+
+// written is the value that a word writes; of a sum under way there is an S ahead of its number.
+func written(word string) api.Value {
+	sum := word[0] == 'S'
+	switch {
+	case word == "NULL":
+		return null
+	case word == "FALSE":
+		return no
+	case word == "TRUE":
+		return yes
+	case word[0] == '\'':
+		return text(word[1 : len(word)-1])
+	case sum:
+		word = word[1:]
+	}
+	n, e := strconv.ParseInt(word, 10, 64)
+	if e != nil {
+		panic(word)
+	}
+	if sum {
+		return under(n)
+	}
+	return number(n)
+}
+
+// list is rows as they are written: a stroke between each two of them, blanks between values.
+func list(s string) []api.Row {
+	var l []api.Row
+	if s == "" {
+		return l
+	}
+	for _, line := range strings.Split(s, "/") {
+		r := api.Row{}
+		for _, word := range strings.Fields(line) {
+			r = append(r, written(word))
+		}
+		l = append(l, r)
+	}
+	return l
+}
+
+func exprOf(l ...api.ENode) api.Expr {
+	return api.Expr{Nodes: l}
+}
+
+func lit(v api.Value) api.Expr {
+	return exprOf(api.ENode{Tag: api.NLit, L: -1, R: -1, Value: v})
+}
+
+func num(n int64) api.Expr {
+	return lit(number(n))
+}
+
+func col(n int) api.Expr {
+	return exprOf(api.ENode{Tag: api.ECol, L: -1, R: -1, Col: n})
+}
+
+// on is the expression of a tag over one part, or two.
+func on(tag int, parts ...api.Expr) api.Expr {
+	root := api.ENode{Tag: tag, L: -1, R: -1}
+	var l []api.ENode
+	for k, p := range parts {
+		by := len(l)
+		for _, n := range p.Nodes {
+			if n.L >= 0 {
+				n.L += by
+			}
+			if n.R >= 0 {
+				n.R += by
+			}
+			l = append(l, n)
+		}
+		if k == 0 {
+			root.L = len(l) - 1
+		} else {
+			root.R = len(l) - 1
+		}
+	}
+	return exprOf(append(l, root)...)
+}
+
+func agg(tag int, arg ...api.Expr) api.Agg {
+	a := api.Agg{Tag: tag}
+	for _, x := range arg {
+		a.Arg = x
+	}
+	return a
+}
+
+func scan(table int, kinds ...int) api.LNode {
+	return api.LNode{Op: api.LScan, Table: table, Kinds: kinds}
+}
+
+func input(frag int, kinds ...int) api.LNode {
+	return api.LNode{Op: api.LInput, Table: frag, Kinds: kinds}
+}
+
+// The nodes of operators that have parts; steps says their places.
+func filter(cond api.Expr) api.LNode {
+	return api.LNode{Op: api.LFilter, Cond: cond}
+}
+
+func group(keys []int, aggs ...api.Agg) api.LNode {
+	return api.LNode{Op: api.LGroup, Keys: keys, Aggs: aggs}
+}
+
+func partial(keys []int, aggs ...api.Agg) api.LNode {
+	return api.LNode{Op: api.LPartial, Keys: keys, Aggs: aggs}
+}
+
+// final has as many keys as said, and aggregates of tags.
+func final(keys int, tags ...int) api.LNode {
+	n := api.LNode{Op: api.LFinal}
+	for k := range keys {
+		n.Keys = append(n.Keys, k)
+	}
+	for _, tag := range tags {
+		n.Aggs = append(n.Aggs, agg(tag))
+	}
+	return n
+}
+
+func project(items ...api.Expr) api.LNode {
+	return api.LNode{Op: api.LProject, Items: items}
+}
+
+// picked is a projection on columns.
+func picked(cols ...int) api.LNode {
+	n := project()
+	for _, c := range cols {
+		n.Items = append(n.Items, col(c))
+	}
+	return n
+}
+
+func sortBy(limit int, order ...api.Ord) api.LNode {
+	return api.LNode{Op: api.LSort, Order: order, Limit: limit}
+}
+
+// down orders by a column, the greatest first.
+func down(column int) api.Ord {
+	return api.Ord{Col: column, Desc: true}
+}
+
+// partsOf says how many parts each operator has.
+var partsOf = map[int]int{
+	api.LScan: 0, api.LJoin: 2, api.LFilter: 1, api.LGroup: 1, api.LProject: 1, api.LDistinct: 1, api.LUnion: 2, api.LSort: 1,
+	api.LInput: 0, api.LPartial: 1, api.LFinal: 1,
+}
+
+// steps are nodes in the order in which they stand, with the places that a tree's order has for their parts; -1, where there are too few.
+func steps(l ...api.LNode) []api.LNode {
+	l = slices.Clone(l)
+	var free []int
+	pop := func() int {
+		if len(free) == 0 {
+			return -1
+		}
+		place := free[len(free)-1]
+		free = free[:len(free)-1]
+		return place
+	}
+	for k, n := range l {
+		n.A, n.B = -1, -1
+		if partsOf[n.Op] == 2 {
+			n.B = pop()
+		}
+		if partsOf[n.Op] > 0 {
+			n.A = pop()
+		}
+		l[k] = n
+		free = append(free, k)
+	}
+	return l
+}
+
+// onAll is a fragment of steps at all nodes, onOne one at the coordinator's; by has Cols besides. The last one of a plan is root.
+func onAll(way int, l ...api.LNode) api.Frag {
+	return api.Frag{Nodes: steps(l...), At: api.AtAll, Way: way}
+}
+
+func onOne(way int, l ...api.LNode) api.Frag {
+	return api.Frag{Nodes: steps(l...), At: api.AtOne, Way: way}
+}
+
+func by(f api.Frag, cols ...int) api.Frag {
+	f.Cols = cols
+	return f
+}
+
+func root(l ...api.LNode) api.Frag {
+	return onOne(api.WayRoot, l...)
+}
+
+func planOf(l ...api.Frag) api.Plan {
+	return api.Plan{Frags: l}
+}
+
+// tab is a table whose columns are laid as a line of a catalog says them.
+func tab(name, columns string, keys ...int) api.Table {
+	kinds := map[string]int{"bool": kb, "int": ki, "text": kt}
+	t := api.Table{Name: name, Keys: keys}
+	f := strings.Fields(columns)
+	for k := 0; k < len(f); k += 2 {
+		t.Columns = append(t.Columns, api.Column{Name: f[k], Kind: kinds[f[k+1]]})
+	}
+	return t
+}
+
+func cat(tables ...api.Table) api.Catalog {
+	return api.Catalog{Tables: tables}
+}

@@ -13,7 +13,7 @@ type desk struct {
 	said []api.Msg
 }
 
-// deskOf has the coordinator's memory for itself alone. That the worker hears what is no message changes nothing: it is asked whether it may be as it is copied.
+// deskOf is a desk with memory of its own, if the coordinator may be. Its worker hears what is no message: that changes nothing, and what comes of it is a copy, so that the worker is asked whether it may be as it is copied.
 func deskOf(c api.Coord) (*desk, api.Errno) {
 	w, _, e := worker.Hear(c.Worker, api.Msg{})
 	if e != api.OK || !isCoord(c) {
